@@ -732,7 +732,7 @@ func TestAnythingIsAnswered(t *testing.T) {
 			t.Fatalf("Crash of %v: %v, %d", d, c, errno)
 		}
 	}
-	if behind := runtime.NumGoroutine(); behind != ahead {
+	if behind := runtime.NumGoroutine(); behind > ahead { // fewer, if that of an earlier test was just ending
 		t.Errorf("%d goroutines ahead, %d behind", ahead, behind)
 	}
 }

@@ -460,7 +460,7 @@ func TestAnyBytesAreAnswered(t *testing.T) {
 			t.Fatalf("%q is answered twice, and not alike", s)
 		}
 	}
-	if behind := runtime.NumGoroutine(); behind != ahead {
+	if behind := runtime.NumGoroutine(); behind > ahead { // fewer, if that of an earlier test was just ending
 		t.Errorf("%d goroutines ahead, %d behind", ahead, behind)
 	}
 }

@@ -483,7 +483,7 @@ func TestAnythingIsAnswered(t *testing.T) {
 		nset.Count(l, most)
 		nset.Pack(most, n)
 	}
-	if behind := runtime.NumGoroutine(); behind != ahead {
+	if behind := runtime.NumGoroutine(); behind > ahead { // fewer, if that of an earlier test was just ending
 		t.Errorf("%d goroutines ahead, %d behind", ahead, behind)
 	}
 }

@@ -309,7 +309,7 @@ func TestAnyBytesAreAnswered(t *testing.T) {
 			t.Fatalf("All(%x) = %x, %d and %x, %d", s, l, n, again, m)
 		}
 	}
-	if behind := runtime.NumGoroutine(); behind != ahead {
+	if behind := runtime.NumGoroutine(); behind > ahead { // fewer, if that of an earlier test was just ending
 		t.Errorf("%d goroutines ahead, %d behind", ahead, behind)
 	}
 }

@@ -409,7 +409,7 @@ func TestAnyBytesHaveLetters(t *testing.T) {
 			t.Fatalf("Utf8(%x) = %q", l, s)
 		}
 	}
-	if behind := runtime.NumGoroutine(); behind != ahead {
+	if behind := runtime.NumGoroutine(); behind > ahead { // fewer, if that of an earlier test was just ending
 		t.Errorf("%d goroutines ahead, %d behind", ahead, behind)
 	}
 }

@@ -396,7 +396,7 @@ func TestAnyBytesAreAnswered(t *testing.T) {
 			t.Fatalf("Read(%x) is answered in two ways", s)
 		}
 	}
-	if behind := runtime.NumGoroutine(); behind != ahead {
+	if behind := runtime.NumGoroutine(); behind > ahead { // fewer, if that of an earlier test was just ending
 		t.Errorf("%d goroutines ahead, %d behind", ahead, behind)
 	}
 }
